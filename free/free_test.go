@@ -7,6 +7,7 @@ import (
 	"testing"
 
 	"magpie/arena"
+	"magpie/turns"
 )
 
 // P10.1: workers and words, none, few and all, words that eight divides and not: heads, links, gens and what is carved stand one behind the other, each word of its own.
@@ -505,10 +506,10 @@ func have(m *model, actors []*actor) []int {
 	return l
 }
 
-// order runs actors to their ends in the order that picks say: whose step each is, of those that are not at their end; 0 behind the last pick. It answers the picks that were done, and how many there were to choose from at each.
-func order(t *testing.T, scripts []string, full int, picks []int) (did, of []int) {
+// order runs actors to their ends in that order.
+func order(t *testing.T, scripts []string, full int, o *turns.Order) {
 	m := modelOf(t, 1, 64)
-	m.known = len(picks) > 0
+	m.known = o.Known()
 	for i := range full {
 		m.fill(spot{0, 0}, 8*i)
 	}
@@ -530,22 +531,16 @@ func order(t *testing.T, scripts []string, full int, picks []int) (did, of []int
 		if len(left) == 0 || t.Failed() {
 			break
 		}
-		pick := 0
-		if len(did) < len(picks) {
-			pick = picks[len(did)]
-		}
-		// What lies ahead of the last pick was held against the model with the order before this one.
-		m.known = len(did) < len(picks)-1
-		did, of = append(did, pick), append(of, len(left))
-		left[pick].step()
+		x := left[o.Pick(len(left))]
+		m.known = o.Known()
+		x.step()
 	}
 	if got := have(m, actors); !slices.Equal(got, want) {
 		t.Errorf("bases %d, want %d", got, want)
 	}
 	if t.Failed() {
-		t.Fatalf("%q on a list of %d, in the order %d", scripts, full, did)
+		t.Fatalf("%q on a list of %d, in the order %d", scripts, full, o.Picks())
 	}
-	return did, of
 }
 
 // P10.2, P10.3: machines on one list, their steps in every order that there is: each step is held against the model, and in the end each base is there once. Among them are those where a first one goes and comes again while a pop has read it.
@@ -561,27 +556,10 @@ func TestEveryOrder(t *testing.T) {
 	}
 	for _, row := range rows {
 		for _, full := range row.full {
-			if n := orders(t, row.scripts, full); n < 2*len(row.scripts)-2 {
+			if n := turns.Each(func(o *turns.Order) { order(t, row.scripts, full, o) }); n < 2*len(row.scripts)-2 {
 				t.Errorf("%q on a list of %d: only %d orders", row.scripts, full, n)
 			}
 		}
-	}
-}
-
-// orders goes through all orders there are; how many.
-func orders(t *testing.T, scripts []string, full int) int {
-	t.Helper()
-	var picks []int
-	for n := 1; ; n++ {
-		did, of := order(t, scripts, full, picks)
-		last := len(did) - 1
-		for last >= 0 && did[last] == of[last]-1 {
-			last--
-		}
-		if last < 0 {
-			return n
-		}
-		picks = append(did[:last:last], did[last]+1)
 	}
 }
 

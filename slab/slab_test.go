@@ -10,6 +10,7 @@ import (
 	"magpie/arena"
 	"magpie/free"
 	"magpie/handle"
+	"magpie/turns"
 )
 
 // stepper is what an alloc and a free have in common.
@@ -752,10 +753,10 @@ type row struct {
 	scripts     []string
 }
 
-// order runs actors to their ends in the order that picks say: whose step each is, of those that are not at their end; 0 behind the last pick. It answers the picks that were done, and how many there were to choose from at each.
-func order(t *testing.T, r row, picks []int) (did, of []int) {
+// order runs actors to their ends in that order.
+func order(t *testing.T, r row, o *turns.Order) {
 	m := modelOf(t, r.work, r.words)
-	m.known = len(picks) > 0
+	m.known = o.Known()
 	m.fill(r.spots...)
 	var actors []*actor
 	for i, todo := range r.scripts {
@@ -771,35 +772,12 @@ func order(t *testing.T, r row, picks []int) (did, of []int) {
 		if len(left) == 0 || t.Failed() {
 			break
 		}
-		pick := 0
-		if len(did) < len(picks) {
-			pick = picks[len(did)]
-		}
-		// What lies ahead of the last pick was held against the model with the order before this one.
-		m.known = len(did) < len(picks)-1
-		did, of = append(did, pick), append(of, len(left))
-		left[pick].step()
+		x := left[o.Pick(len(left))]
+		m.known = o.Known()
+		x.step()
 	}
 	if t.Failed() {
-		t.Fatalf("%+v, in the order %d", r, did)
-	}
-	return did, of
-}
-
-// orders goes through all orders there are; how many.
-func orders(t *testing.T, r row) int {
-	t.Helper()
-	var picks []int
-	for n := 1; ; n++ {
-		did, of := order(t, r, picks)
-		last := len(did) - 1
-		for last >= 0 && did[last] == of[last]-1 {
-			last--
-		}
-		if last < 0 {
-			return n
-		}
-		picks = append(did[:last:last], did[last]+1)
+		t.Fatalf("%+v, in the order %d", r, o.Picks())
 	}
 }
 
@@ -827,7 +805,7 @@ func TestEveryOrder(t *testing.T) {
 		{1, 8, nil, []string{"0", "0", "0"}},
 	}
 	for _, r := range rows {
-		if n := orders(t, r); n < 20 {
+		if n := turns.Each(func(o *turns.Order) { order(t, r, o) }); n < 20 {
 			t.Errorf("%+v: only %d orders", r, n)
 		}
 	}
